@@ -254,7 +254,7 @@ func restores(t *testing.T, s ledger.Sheet) api.Errno {
 	return e
 }
 
-// TestP113RestoreEvery tears all sets of lines of sheets of one to three pages.
+// TestP113RestoreEvery tears all sets of lines of sheets of one and two pages, and some of one with three.
 func TestP113RestoreEvery(t *testing.T) {
 	l := &luck{10}
 	for _, rows := range list(1, 3, 5, 9) {
